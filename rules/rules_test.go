@@ -43,6 +43,11 @@ func layers() map[string]string {
 	}
 }
 
+// helpers is the packages beside the layers, and the layers that they stand on: all that use one may stand on these.
+func helpers() map[string]string {
+	return map[string]string{"parts": "texts bits codec arena"}
+}
+
 // source is a file of the program, no test.
 type source struct {
 	name, folder string
@@ -115,10 +120,14 @@ func TestImports(t *testing.T) {
 			if !isOwn && !strings.Contains(library, " "+path+" ") {
 				t.Errorf("%s imports %s", s.name, path)
 			}
-			stands, isLayer := layers()[s.folder]
-			_, toLayer := layers()[own]
-			if isOwn && isLayer && toLayer && !slices.Contains(strings.Fields(stands), own) {
+			stands := strings.Fields(layers()[s.folder] + helpers()[s.folder])
+			if _, isLayer := layers()[own]; isLayer && !slices.Contains(stands, own) {
 				t.Errorf("%s does not stand on %s", s.folder, own)
+			}
+			for _, layer := range strings.Fields(helpers()[own]) {
+				if !slices.Contains(stands, layer) {
+					t.Errorf("%s does not stand on %s, on which %s stands", s.folder, layer, own)
+				}
 			}
 		}
 	}
