@@ -45,7 +45,7 @@ func layers() map[string]string {
 
 // helpers is the packages beside the layers, and the layers that they stand on: all that use one may stand on these.
 func helpers() map[string]string {
-	return map[string]string{"parts": "texts bits codec arena", "copies": ""}
+	return map[string]string{"parts": "texts bits codec arena", "copies": "", "fields": "codec"}
 }
 
 // source is a file of the program, no test.
